@@ -109,11 +109,13 @@ func TestStreamsSharedAreThoseOfOneWorker(t *testing.T) {
 	}
 }
 
-func TestStreamsSharedLeaveNoWorkers(t *testing.T) {
+// wantNoWorkers calls a function with workers often, and waits until none is left.
+func wantNoWorkers(t *testing.T, call func(streams int64)) {
+	t.Helper()
 	before := runtime.NumGoroutine()
 	for range 200 {
 		for _, streams := range []int64{0, 1, 16} {
-			impl.StreamsShared(impl.Seed{Kind: impl.SeedCount}, streams, 256, 8)
+			call(streams)
 		}
 	}
 	// A worker that has been waited for may still be on its way out.
@@ -121,6 +123,12 @@ func TestStreamsSharedLeaveNoWorkers(t *testing.T) {
 		time.Sleep(time.Millisecond)
 	}
 	wantSame(t, "no more goroutines than before", runtime.NumGoroutine() <= before, true)
+}
+
+func TestStreamsSharedLeaveNoWorkers(t *testing.T) {
+	wantNoWorkers(t, func(streams int64) {
+		impl.StreamsShared(impl.Seed{Kind: impl.SeedCount}, streams, 256, 8)
+	})
 }
 
 func TestStreamsFail(t *testing.T) {
@@ -151,27 +159,33 @@ func TestStreamsFail(t *testing.T) {
 	}
 }
 
+// wantOwnMemory changes lists of at least 3 numbers, which must change no other list.
+func wantOwnMemory[T comparable](t *testing.T, call func() [][]T, other T) {
+	t.Helper()
+	lists, want := call(), call()
+	for i := range lists {
+		_ = append(lists[i], other, other, other, other)
+		lists[i][0], lists[i][2] = other, other
+		for k := i + 1; k < len(lists); k++ {
+			wantList(t, "a stream behind a change of another one", lists[k], want[k])
+		}
+	}
+	for i, list := range call() {
+		wantList(t, "a stream behind a change of a former result", list, want[i])
+	}
+}
+
 func TestStreamsShareNoMemory(t *testing.T) {
 	s := impl.Seed{Kind: impl.SeedLine, B: 1}
-	for _, workers := range []int64{0, 1, 5} { // 0: StreamWords
-		call := func() [][]int64 {
-			lists, _ := impl.StreamWords(s, 16, 3)
-			if workers > 0 {
-				lists, _ = impl.StreamsShared(s, 16, 3, workers)
-			}
+	wantOwnMemory(t, func() [][]int64 {
+		lists, _ := impl.StreamWords(s, 16, 3)
+		return lists
+	}, -5)
+	for _, workers := range []int64{1, 5} {
+		wantOwnMemory(t, func() [][]int64 {
+			lists, _ := impl.StreamsShared(s, 16, 3, workers)
 			return lists
-		}
-		lists, want := call(), call()
-		for i := range lists {
-			_ = append(lists[i], 1, 2, 3, 4)
-			lists[i][0], lists[i][2] = -5, -5
-			for k := i + 1; k < len(lists); k++ {
-				wantList(t, "a stream behind a change of another one", lists[k], want[k])
-			}
-		}
-		for i, list := range call() {
-			wantList(t, "a stream behind a change of a former result", list, want[i])
-		}
+		}, -5)
 	}
 }
 
