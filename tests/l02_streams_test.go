@@ -167,11 +167,11 @@ func wantOwnMemory[T comparable](t *testing.T, call func() [][]T, other T) {
 		_ = append(lists[i], other, other, other, other)
 		lists[i][0], lists[i][2] = other, other
 		for k := i + 1; k < len(lists); k++ {
-			wantList(t, "a stream behind a change of another one", lists[k], want[k])
+			wantList(t, "a list behind a change of another one", lists[k], want[k])
 		}
 	}
 	for i, list := range call() {
-		wantList(t, "a stream behind a change of a former result", list, want[i])
+		wantList(t, "a list behind a change of a former result", list, want[i])
 	}
 }
 
