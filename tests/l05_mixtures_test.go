@@ -214,7 +214,7 @@ func fitReference(m impl.Mixture, list []float32) (impl.Mixture, bool) {
 	for _, x := range list {
 		parts := bellsReference(m, x)
 		all := sumOfWeights(parts)
-		if all == 0 {
+		if !isFinite(all) || all == 0 {
 			return impl.Mixture{}, false
 		}
 		for i, part := range parts {
@@ -229,7 +229,7 @@ func fitReference(m impl.Mixture, list []float32) (impl.Mixture, bool) {
 			n = shortPlus(n, shares[k][i])
 			sum = shortPlus(sum, shortTimes(shares[k][i], x))
 		}
-		if n <= 0.001 || n != n {
+		if n <= 0.001 {
 			continue
 		}
 		mean := shortOver(sum, n)
@@ -300,6 +300,12 @@ func TestFitMixtureFails(t *testing.T) {
 		{mixtureOf([]float32{0.5, 0.5}, []float32{0, 1000}, []float32{1, 1}), []float32{1000, 1001}}, {mixtureOf([]float32{0.5, 0.5}, []float32{0, 1000}, []float32{1, 1}), []float32{0, 1}},
 		// The sum of all numbers, or that of their squares, is too great.
 		{oneBell(most, 1), []float32{most, most}}, {oneBell(0, 1e20), []float32{-1e20, 1e20}},
+		// The only part is infinitely dense at one number, or at all of them.
+		{oneBell(0, 1e-39), []float32{0, 0}}, {oneBell(0, 1e-39), []float32{0, 1e-39}}, {oneBell(0, 1e-39), []float32{1e-39, 0}}, {oneBell(0, least), []float32{0, minusZero}}, {oneBell(-3, least), []float32{-3, -3, -3}},
+		// So is one part beside others that are not: the first one, the last one, one of little weight, and at the last number alone.
+		{mixtureOf([]float32{0.5, 0.5}, []float32{0, 4}, []float32{least, 1}), []float32{0, 5}}, {mixtureOf([]float32{0.5, 0.5}, []float32{0, 4}, []float32{1, least}), []float32{4, 5}}, {mixtureOf([]float32{0.25, 0.5, 0.25}, []float32{3, 4, 5}, []float32{1, least, 2}), []float32{3, 5, 4}}, {mixtureOf([]float32{1, 0.0001}, []float32{0, 0}, []float32{1, least}), []float32{1, 2, 3, 0}},
+		// No part is, but the sum of two, or of eight.
+		{mixtureOf([]float32{0.5, 0.5}, []float32{0, 0}, []float32{1e-39, 1e-39}), []float32{0, 0}}, {mixtureOf(repeated[float32](0.125, 8), make([]float32, 8), repeated[float32](1e-39, 8)), []float32{0, 0, 0}},
 	} {
 		fitted, ok := impl.FitMixture(c.m, c.list, 0)
 		wantMixture(t, call{"FitMixture no rounds ", c.m, c.list}, fitted, ok, c.m, true)
@@ -319,15 +325,33 @@ func TestFitMixtureThatIsKnown(t *testing.T) {
 		{oneBell(0, 1), oneBell(2, shortRoot(1.0001)), []float32{1, 3}, 1}, {oneBell(0, 1), oneBell(2, shortRoot(1.0001)), []float32{1, 3}, 64}, {oneBell(0, 1), oneBell(5, 0.01), repeated[float32](5, 7), 64}, {oneBell(0, 1), oneBell(0, 0.01), []float32{minusZero, minusZero}, 1},
 		// A part that no number is near to stays as it is, where its weight lets it.
 		{mixtureOf([]float32{1, 0}, []float32{0, minusZero}, []float32{1, 3}), mixtureOf([]float32{1, 0}, []float32{2, minusZero}, []float32{shortRoot(1.0001), 3}), []float32{1, 3}, 1}, {mixtureOf([]float32{minusZero, 1}, []float32{1, 0}, []float32{1, 3}), mixtureOf([]float32{minusZero, 1}, []float32{1, 2}, []float32{1, shortRoot(1.0001)}), []float32{1, 3}, 5}, {mixtureOf([]float32{0.9995, 0.0005}, []float32{0, 1000}, []float32{1, 1}), mixtureOf([]float32{1, 0.0005}, []float32{2, 1000}, []float32{shortRoot(1.0001), 1}), []float32{1, 3}, 3},
-		// So does a part that is infinitely dense at a number, whose share is not a number.
-		{oneBell(0, least), oneBell(0, least), []float32{0, minusZero}, 64}, {oneBell(0, 1e-39), oneBell(0, 1e-39), []float32{0, 0}, 1}, {mixtureOf([]float32{0.5, 0.5}, []float32{0, 4}, []float32{least, 1}), mixtureOf([]float32{0.5, 0.5}, []float32{0, 5}, []float32{least, 0.01}), []float32{0, 5}, 1},
-		// Two parts of which none is infinitely dense, but both together, have no share at all.
-		{mixtureOf([]float32{0.5, 0.5}, []float32{0, 0}, []float32{1e-39, 1e-39}), mixtureOf([]float32{0.5, 0.5}, []float32{0, 0}, []float32{1e-39, 1e-39}), []float32{0, 0}, 64},
 		{mixtureOf([]float32{0.5, 0.5}, []float32{0, 1000}, []float32{1, 1}), mixtureOf([]float32{0.5, 0.5}, []float32{1, 1001}, []float32{shortRoot(1.0001), shortRoot(1.0001)}), []float32{0, 1000, 2, 1002}, 64},
 	} {
 		fitted, ok := impl.FitMixture(c.m, c.list, c.rounds)
 		wantMixture(t, call{"FitMixture ", c.m, c.list, c.rounds}, fitted, ok, c.want, true)
 	}
+}
+
+// TestFitMixtureWhereMixtureAtFails looks at the spreads at which a part, or
+// the sum of two, becomes infinite. There is no mixture of which this comes only
+// behind a first round: a part that was fitted has a spread of at least 0.01,
+// and one that stayed has at each number what it had before, at most about
+// 0.001 of a sum that was finite.
+func TestFitMixtureWhereMixtureAtFails(t *testing.T) {
+	results := map[bool]int{}
+	near := int32(bitsOf(1.1723e-39))
+	for off := int32(-3000); off <= 3000; off += 7 {
+		spread := fromBits(uint32(near + off))
+		for _, m := range []impl.Mixture{oneBell(0, spread), mixtureOf([]float32{0.5, 0.5}, []float32{0, 0}, []float32{spread, spread}), mixtureOf([]float32{0.0005, 1}, []float32{0, 0}, []float32{1, spread})} {
+			_, can := impl.MixtureAt(m, 0)
+			results[can]++
+			for _, rounds := range []int64{0, 1, 2, 3} {
+				_, ok := impl.FitMixture(m, []float32{0, minusZero}, rounds)
+				wantSame(t, fmt.Sprint("FitMixture ", m, rounds, " succeeds"), ok, can || rounds == 0)
+			}
+		}
+	}
+	wantSame(t, "MixtureAt succeeds at some, and fails at others", results[true] > 0 && results[false] > 0, true)
 }
 
 // TestFitMixtureAtTheLeastPart looks at parts with n near 0.001: these bells
