@@ -2,6 +2,7 @@ package tests
 
 import (
 	"math"
+	"sync"
 	"testing"
 )
 
@@ -75,6 +76,21 @@ func wantSame[T comparable](t *testing.T, what string, got, want T) {
 	t.Helper()
 	if got != want {
 		t.Errorf("%s: got %v, want %v", what, got, want)
+	}
+}
+
+// wantEqualAtOnce makes calls at the same time, which must return what they return alone.
+func wantEqualAtOnce(t *testing.T, calls func() string) {
+	t.Helper()
+	want := calls()
+	results := make([]string, 32)
+	var group sync.WaitGroup
+	for i := range results {
+		group.Go(func() { results[i] = calls() })
+	}
+	group.Wait()
+	for _, result := range results {
+		wantSame(t, "calls at once", result, want)
 	}
 }
 

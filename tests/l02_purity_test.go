@@ -2,7 +2,6 @@ package tests
 
 import (
 	"fmt"
-	"sync"
 	"testing"
 
 	"loop.example/g01339/impl"
@@ -50,16 +49,7 @@ func TestSeedFunctionsReturnEqualResults(t *testing.T) {
 
 func TestSeedFunctionsReturnEqualResultsAtOnce(t *testing.T) {
 	s := impl.Seed{Kind: impl.SeedShift, A: 77}
-	want := seedCalls(s, s, 16, 8)
-	results := make([]string, 32)
-	var group sync.WaitGroup
-	for i := range results {
-		group.Go(func() { results[i] = seedCalls(s, s, 16, 8) })
-	}
-	group.Wait()
-	for _, result := range results {
-		wantSame(t, "calls at once", result, want)
-	}
+	wantEqualAtOnce(t, func() string { return seedCalls(s, s, 16, 8) })
 }
 
 func TestListsOfWordsAreNotChanged(t *testing.T) {

@@ -3,7 +3,6 @@ package tests
 import (
 	"fmt"
 	"math"
-	"sync"
 	"testing"
 
 	"loop.example/g01339/impl"
@@ -51,16 +50,7 @@ func TestDrawsReturnEqualResults(t *testing.T) {
 
 func TestDrawsReturnEqualResultsAtOnce(t *testing.T) {
 	s := impl.Seed{Kind: impl.SeedShift, A: 77}
-	want := drawCalls(s, 0.5, 3, 16, 8)
-	results := make([]string, 32)
-	var group sync.WaitGroup
-	for i := range results {
-		group.Go(func() { results[i] = drawCalls(s, 0.5, 3, 16, 8) })
-	}
-	group.Wait()
-	for _, result := range results {
-		wantSame(t, "calls at once", result, want)
-	}
+	wantEqualAtOnce(t, func() string { return drawCalls(s, 0.5, 3, 16, 8) })
 }
 
 // pickCalls has the results of all functions that take lists.

@@ -4,7 +4,6 @@ import (
 	"fmt"
 	"math"
 	"slices"
-	"sync"
 	"testing"
 
 	"loop.example/g01339/impl"
@@ -83,16 +82,7 @@ func TestShapesReturnEqualResultsAtOnce(t *testing.T) {
 		return shapeCalls(s, 0, 1, 1i, 16, 7) + listCalls(s, descending(12), [][]int64{descending(12)}, []float32{1, 0}, []complex64{1i}, 12) +
 			listCalls(s, listOf(allPairs(9)), nil, nil, nil, 9) + listCalls(s, repeated(int64(2), 9), nil, nil, nil, 9)
 	}
-	want := calls()
-	results := make([]string, 32)
-	var group sync.WaitGroup
-	for i := range results {
-		group.Go(func() { results[i] = calls() })
-	}
-	group.Wait()
-	for _, result := range results {
-		wantSame(t, "calls at once", result, want)
-	}
+	wantEqualAtOnce(t, calls)
 }
 
 func TestListsOfShapesAreNotChanged(t *testing.T) {

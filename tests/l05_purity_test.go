@@ -2,7 +2,6 @@ package tests
 
 import (
 	"fmt"
-	"sync"
 	"testing"
 
 	"loop.example/g01339/impl"
@@ -77,16 +76,7 @@ func TestSharesReturnEqualResultsAtOnce(t *testing.T) {
 	calls := func() string {
 		return shareCalls(impl.Seed{Kind: impl.SeedShift, A: 77}, a, b, m, list, []int64{1, 2, 3, 4}, 0.5, 3, 2)
 	}
-	want := calls()
-	results := make([]string, 32)
-	var group sync.WaitGroup
-	for i := range results {
-		group.Go(func() { results[i] = calls() })
-	}
-	group.Wait()
-	for _, result := range results {
-		wantSame(t, "calls at once", result, want)
-	}
+	wantEqualAtOnce(t, calls)
 }
 
 func TestSharesAreNew(t *testing.T) {
