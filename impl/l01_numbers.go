@@ -458,8 +458,13 @@ func ReadComplex(s string) ([]complex64, bool) {
 }
 
 func digitsOf(x float32) string {
-	digits := strconv.FormatInt(BitsOf(x), 16)
-	return strings.Repeat("0", numberDigits-len(digits)) + digits
+	return hexDigits(uint64(BitsOf(x)), numberDigits)
+}
+
+// hexDigits returns n to the base 16 with count digits, which are enough for it.
+func hexDigits(n uint64, count int) string {
+	digits := strconv.FormatUint(n, 16)
+	return strings.Repeat("0", count-len(digits)) + digits
 }
 
 func readDigits(s string) (float32, bool) {
